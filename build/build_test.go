@@ -11,46 +11,11 @@ import (
 	"narcissus/build"
 	"narcissus/code"
 	"narcissus/run"
+	"narcissus/sample"
+	"narcissus/write"
 )
 
-const (
-	mostPairs = 999999 // pairs of the longest valid tree
-	mostRegs  = 28     // registers of a program that is composed
-	greatest  = int(^uint(0) >> 1)
-)
-
-func set(a int, s string) api.Instr { return api.Instr{Op: api.OpSet, A: a, Tree: s} }
-func move(a, b int) api.Instr       { return api.Instr{Op: api.OpMove, A: a, B: b} }
-func cons(a, b, c int) api.Instr    { return api.Instr{Op: api.OpCons, A: a, B: b, C: c} }
-func jump(a, b int) api.Instr       { return api.Instr{Op: api.OpJump, A: a, B: b} }
-
-// number is the number n as a tree.
-func number(n int) string { return strings.Repeat("10", n) + "0" }
-
-func short(s string) string {
-	if len(s) > 300 {
-		return s[:300] + ".."
-	}
-	return s
-}
-
-func show(l ...api.Program) string {
-	var b []string
-	for _, p := range l {
-		s, _ := code.Text(p)
-		b = append(b, "["+short(s)+"]")
-	}
-	return strings.Join(b, " ")
-}
-
-func program(t *testing.T, s string) api.Program {
-	t.Helper()
-	p, e := code.Parse(s)
-	if e != api.OK {
-		t.Fatalf("%q: %d", s, e)
-	}
-	return p
-}
+const mostRegs = 28 // registers of a program that is composed
 
 // regs is the number of registers of a valid program.
 func regs(p api.Program) int {
@@ -72,7 +37,7 @@ func (l *layout) add(p ...api.Instr) { l.p = append(l.p, p...) }
 
 func (l *layout) clean(p api.Program) {
 	for r := 1; r <= regs(p)-1; r++ {
-		l.add(set(r, "0"))
+		l.add(write.Set(r, "0"))
 	}
 }
 
@@ -80,7 +45,7 @@ func (l *layout) place(name string) { l.places[name] = len(l.p) }
 
 func (l *layout) jump(a int, name string) {
 	l.jumps[len(l.p)] = name
-	l.add(jump(a, 0))
+	l.add(write.Jump(a, 0))
 }
 
 func (l *layout) done() api.Program {
@@ -112,28 +77,28 @@ func thenOf(a []api.Program) api.Program {
 
 func pairOf(a []api.Program) api.Program {
 	l, p, q, n := newLayout(), a[0], a[1], most(a)
-	l.add(move(n, 0))
+	l.add(write.Move(n, 0))
 	l.add(p...)
-	l.add(move(n+1, 0))
-	l.add(move(0, n))
+	l.add(write.Move(n+1, 0))
+	l.add(write.Move(0, n))
 	l.clean(q)
 	l.add(q...)
-	l.add(cons(0, n+1, 0))
+	l.add(write.Cons(0, n+1, 0))
 	return l.done()
 }
 
 func ifOf(a []api.Program) api.Program {
 	l, c, p, q, n := newLayout(), a[0], a[1], a[2], most(a)
-	l.add(move(n, 0))
+	l.add(write.Move(n, 0))
 	l.add(c...)
 	l.jump(0, "1")
-	l.add(move(0, n))
+	l.add(write.Move(0, n))
 	l.clean(q)
 	l.add(q...)
-	l.add(set(n, "100"))
+	l.add(write.Set(n, "100"))
 	l.jump(n, "end")
 	l.place("1")
-	l.add(move(0, n))
+	l.add(write.Move(0, n))
 	l.clean(p)
 	l.add(p...)
 	return l.done()
@@ -142,18 +107,18 @@ func ifOf(a []api.Program) api.Program {
 func whileOf(a []api.Program) api.Program {
 	l, c, p, n := newLayout(), a[0], a[1], most(a)
 	l.place("1")
-	l.add(move(n, 0))
+	l.add(write.Move(n, 0))
 	l.clean(c)
 	l.add(c...)
 	l.jump(0, "2")
-	l.add(move(0, n))
-	l.add(set(n, "100"))
+	l.add(write.Move(0, n))
+	l.add(write.Set(n, "100"))
 	l.jump(n, "end")
 	l.place("2")
-	l.add(move(0, n))
+	l.add(write.Move(0, n))
 	l.clean(p)
 	l.add(p...)
-	l.add(set(n, "100"))
+	l.add(write.Set(n, "100"))
 	l.jump(n, "1")
 	return l.done()
 }
@@ -300,7 +265,7 @@ func compositions() []composition {
 }
 
 // some are programs that leave trees in registers, that need registers to be nil, that jump to their end and out of loops, that never end, and that make too large trees.
-func some(t *testing.T) []api.Program {
+func some() []api.Program {
 	var l []api.Program
 	for _, s := range []string{
 		"", "tail 0 0", "head 0 0", "set 0 0", "set 0 10100", "cons 0 0 0",
@@ -309,13 +274,13 @@ func some(t *testing.T) []api.Program {
 		"jump 0 3; set 0 100; tail 0 0", "jump 0 1", "jump 1 3; jump 0 2; set 0 100", "tail 0 0; jump 0 -1", "move 1 0; tail 1 1; jump 1 -1; head 0 0",
 		"jump 0 0", "set 1 100; jump 1 0", "cons 0 0 0; jump 0 -1",
 	} {
-		l = append(l, program(t, s))
+		l = append(l, sample.Program(s))
 	}
 	return l
 }
 
 func inputs() []string {
-	return []string{"0", "100", "10100", "11000", "1011000", "1100100", "1110010010100", number(7)}
+	return []string{"0", "100", "10100", "11000", "1011000", "1100100", "1110010010100", sample.Number(7)}
 }
 
 // choices calls f with all lists of so many elements of l.
@@ -339,28 +304,28 @@ func check(t *testing.T, what string, p api.Program, x string, o outcome) {
 	}
 	if o.e != api.OK {
 		if y, _, e := run.Run(p, x, o.steps); e != o.e {
-			t.Fatalf("%s on %s with %d: %s, %d, not %d", what, short(x), o.steps, short(y), e, o.e)
+			t.Fatalf("%s on %s with %d: %s, %d, not %d", what, sample.Short(x), o.steps, sample.Short(y), e, o.e)
 		}
 		return
 	}
 	if y, n, e := run.Run(p, x, o.steps); y != o.y || n != o.steps || e != api.OK {
-		t.Fatalf("%s on %s: %s, %d, %d; not %s, %d", what, short(x), short(y), n, e, short(o.y), o.steps)
+		t.Fatalf("%s on %s: %s, %d, %d; not %s, %d", what, sample.Short(x), sample.Short(y), n, e, sample.Short(o.y), o.steps)
 	}
 	if o.steps > 0 {
 		if y, _, e := run.Run(p, x, o.steps-1); e != api.ErrFuel {
-			t.Fatalf("%s on %s with %d: %s, %d", what, short(x), o.steps-1, short(y), e)
+			t.Fatalf("%s on %s with %d: %s, %d", what, sample.Short(x), o.steps-1, sample.Short(y), e)
 		}
 	}
 }
 
 // The programs are those that the chapter writes.
 func TestLayouts(t *testing.T) {
-	l := append(some(t), program(t, "move 27 0; tail 0 27"), program(t, "jump 9 1; head 0 0"))
+	l := append(some(), sample.Program("move 27 0; tail 0 27"), sample.Program("jump 9 1; head 0 0"))
 	for _, c := range compositions() {
 		choices(l, c.count, func(a []api.Program) {
 			p, e := c.build(a)
 			if want := c.layout(a); e != api.OK || !slices.Equal(p, want) || !code.Valid(p) {
-				t.Fatalf("%s of %s: %s, %d; not %s", c.name, show(a...), show(p), e, show(want))
+				t.Fatalf("%s of %s: %s, %d; not %s", c.name, sample.Show(a...), sample.Show(p), e, sample.Show(want))
 			}
 		})
 	}
@@ -369,10 +334,10 @@ func TestLayouts(t *testing.T) {
 // P4.1: composed programs return what they should, after as many steps, or nothing.
 func TestComposed(t *testing.T) {
 	for _, c := range compositions() {
-		choices(some(t), c.count, func(a []api.Program) {
+		choices(some(), c.count, func(a []api.Program) {
 			p, e := c.build(a)
 			if e != api.OK {
-				t.Fatalf("%s of %s: %d", c.name, show(a...), e)
+				t.Fatalf("%s of %s: %d", c.name, sample.Show(a...), e)
 			}
 			var parts []part
 			for _, q := range a {
@@ -380,7 +345,7 @@ func TestComposed(t *testing.T) {
 			}
 			does := c.does(parts)
 			for _, x := range inputs()[:6] {
-				check(t, c.name+" of "+show(a...), p, x, does(x))
+				check(t, c.name+" of "+sample.Show(a...), p, x, does(x))
 			}
 		})
 	}
@@ -389,7 +354,7 @@ func TestComposed(t *testing.T) {
 // P4.1: the same of programs that are composed of composed programs.
 func TestComposedOfComposed(t *testing.T) {
 	r := rand.New(rand.NewSource(1))
-	l, c := some(t), compositions()
+	l, c := some(), compositions()
 	var random func(depth int) part
 	random = func(depth int) part {
 		if depth == 0 || r.Intn(6) == 0 {
@@ -404,7 +369,7 @@ func TestComposedOfComposed(t *testing.T) {
 		}
 		p, e := c.build(programs)
 		if e != api.OK || !slices.Equal(p, c.layout(programs)) {
-			t.Fatalf("%s of %s: %s, %d", c.name, show(programs...), show(p), e)
+			t.Fatalf("%s of %s: %s, %d", c.name, sample.Show(programs...), sample.Show(p), e)
 		}
 		return part{p, c.does(parts)}
 	}
@@ -413,7 +378,7 @@ func TestComposedOfComposed(t *testing.T) {
 		a := random(1 + r.Intn(4))
 		for _, x := range inputs() {
 			o := a.does(x)
-			check(t, show(a.p), a.p, x, o)
+			check(t, sample.Show(a.p), a.p, x, o)
 			if o.e == api.OK {
 				ends++
 			}
@@ -430,32 +395,32 @@ func TestPairTooLarge(t *testing.T) {
 	if e != api.OK {
 		t.Fatal(e)
 	}
-	x := number(mostPairs / 2)
+	x := sample.Number(sample.MostPairs / 2)
 	check(t, "Pair", p, x, outcome{"1" + x + x, 4, api.OK})
-	x = number(mostPairs/2 + 1)
+	x = sample.Number(sample.MostPairs/2 + 1)
 	check(t, "Pair", p, x, outcome{"", 3, api.ErrFuel})
 	check(t, "Pair", p, x, outcome{"", 4, api.ErrSize})
 }
 
 func TestConst(t *testing.T) {
-	for _, d := range append(inputs(), number(mostPairs)) {
+	for _, d := range append(inputs(), sample.Number(sample.MostPairs)) {
 		p, e := build.Const(d)
-		if e != api.OK || !slices.Equal(p, api.Program{set(0, d)}) {
-			t.Fatalf("Const(%s): %s, %d", short(d), show(p), e)
+		if e != api.OK || !slices.Equal(p, api.Program{write.Set(0, d)}) {
+			t.Fatalf("Const(%s): %s, %d", sample.Short(d), sample.Show(p), e)
 		}
-		for _, x := range append(inputs(), number(mostPairs)) {
-			check(t, "Const "+short(d), p, x, outcome{d, 1, api.OK})
+		for _, x := range append(inputs(), sample.Number(sample.MostPairs)) {
+			check(t, "Const "+sample.Short(d), p, x, outcome{d, 1, api.OK})
 		}
 	}
-	for _, d := range []string{"", "1", "00", "2", "10", "100 ", " 0", "0\n", "\xff", "0100", number(mostPairs + 1)} {
+	for _, d := range []string{"", "1", "00", "2", "10", "100 ", " 0", "0\n", "\xff", "0100", sample.Number(sample.MostPairs + 1)} {
 		if p, e := build.Const(d); e != api.ErrForm || len(p) != 0 {
-			t.Errorf("Const(%q): %s, %d", short(d), show(p), e)
+			t.Errorf("Const(%q): %s, %d", sample.Short(d), sample.Show(p), e)
 		}
 	}
 }
 
 func TestExamples(t *testing.T) {
-	tail, none := program(t, "tail 0 0"), api.Program{}
+	tail, none := sample.Program("tail 0 0"), api.Program{}
 	p, e := build.Then(tail, tail)
 	if y, _, f := run.Run(p, "10100", 9); e != api.OK || f != api.OK || y != "0" {
 		t.Error(e, f, y)
@@ -468,33 +433,33 @@ func TestExamples(t *testing.T) {
 		t.Error(f, y)
 	}
 	p, e = build.While(none, tail)
-	if e != api.OK || show(p) != "[move 1 0; jump 0 4; move 0 1; set 1 100; jump 1 5; move 0 1; tail 0 0; set 1 100; jump 1 -8]" {
-		t.Error(e, show(p))
+	if e != api.OK || sample.Show(p) != "[move 1 0; jump 0 4; move 0 1; set 1 100; jump 1 5; move 0 1; tail 0 0; set 1 100; jump 1 -8]" {
+		t.Error(e, sample.Show(p))
 	}
-	for _, x := range append(inputs(), number(100000)) {
+	for _, x := range append(inputs(), sample.Number(100000)) {
 		if y, _, f := run.Run(p, x, api.MaxFuel); f != api.OK || y != "0" {
-			t.Error(short(x), f, short(y))
+			t.Error(sample.Short(x), f, sample.Short(y))
 		}
 	}
 	p, e = build.If(none, tail, none)
-	if e != api.OK || show(p) != "[move 1 0; jump 0 4; move 0 1; set 1 100; jump 1 3; move 0 1; tail 0 0]" {
-		t.Error(e, show(p))
+	if e != api.OK || sample.Show(p) != "[move 1 0; jump 0 4; move 0 1; set 1 100; jump 1 3; move 0 1; tail 0 0]" {
+		t.Error(e, sample.Show(p))
 	}
 }
 
 func TestThenOfAnyNumber(t *testing.T) {
 	for _, l := range [][]api.Program{nil, {}, {nil}, {{}}, {nil, {}, nil}, make([]api.Program, 100000)} {
 		if p, e := build.Then(l...); e != api.OK || len(p) != 0 {
-			t.Errorf("Then of %d empty programs: %s, %d", len(l), show(p), e)
+			t.Errorf("Then of %d empty programs: %s, %d", len(l), sample.Show(p), e)
 		}
 	}
-	tail := program(t, "tail 0 0")
+	tail := sample.Program("tail 0 0")
 	for _, n := range []int{1, 2, 3, 10, 1000, api.MaxCode} {
 		p, e := build.Then(slices.Repeat([]api.Program{tail, nil}, n)...)
 		if e != api.OK || !slices.Equal(p, slices.Repeat(tail, n)) {
 			t.Errorf("Then of %d: %d instructions, %d", n, len(p), e)
 		}
-		check(t, "Then", p, number(n+3), outcome{number(3), n, api.OK})
+		check(t, "Then", p, sample.Number(n+3), outcome{sample.Number(3), n, api.OK})
 	}
 }
 
@@ -505,7 +470,7 @@ func agree(t *testing.T, what string, l ...api.Program) {
 		want, _, e := run.Run(l[0], x, 500)
 		for _, p := range l[1:] {
 			if y, _, f := run.Run(p, x, 1000); f != e || y != want {
-				t.Fatalf("%s on %s: %s returns %s, %d; %s returns %s, %d", what, x, show(l[0]), short(want), e, show(p), short(y), f)
+				t.Fatalf("%s on %s: %s returns %s, %d; %s returns %s, %d", what, x, sample.Show(l[0]), sample.Short(want), e, sample.Show(p), sample.Short(y), f)
 			}
 		}
 	}
@@ -525,13 +490,13 @@ func must(t *testing.T) func(api.Program, api.Errno) api.Program {
 // P4.2: the laws.
 func TestLaws(t *testing.T) {
 	must := must(t)
-	head, constant := program(t, "head 0 0"), must(build.Const("1100100"))
-	choices(some(t), 3, func(a []api.Program) {
+	head, constant := sample.Program("head 0 0"), must(build.Const("1100100"))
+	choices(some(), 3, func(a []api.Program) {
 		left := must(build.Then(must(build.Then(a[0], a[1])), a[2]))
 		right := must(build.Then(a[0], must(build.Then(a[1], a[2]))))
 		agree(t, "associative", must(build.Then(a...)), left, right)
 	})
-	for _, p := range some(t) {
+	for _, p := range some() {
 		agree(t, "neutral", p, must(build.Then(p)), must(build.Then(nil, p)), must(build.Then(p, nil)), must(build.Then(nil, p, nil)))
 		behind := must(build.Then(p, constant))
 		for _, x := range inputs() {
@@ -540,22 +505,12 @@ func TestLaws(t *testing.T) {
 				want = "1100100"
 			}
 			if y, _, f := run.Run(behind, x, 1010); y != want || f != e {
-				t.Errorf("Const behind %s on %s: %s, %d", show(p), x, y, f)
+				t.Errorf("Const behind %s on %s: %s, %d", sample.Show(p), x, y, f)
 			}
 		}
-		for _, q := range some(t)[:17] { // those that always return something
+		for _, q := range some()[:17] { // those that always return something
 			agree(t, "head of the pair", p, must(build.Then(must(build.Pair(p, q)), head)))
 		}
-	}
-}
-
-// invalid returns programs that are not valid.
-func invalid() []api.Program {
-	return []api.Program{
-		slices.Repeat(api.Program{move(0, 0)}, api.MaxCode+1), {{Op: -1}}, {{Op: api.Ops}}, {{Op: greatest}}, make(api.Program, 1),
-		{jump(0, 2)}, {jump(0, -1)}, {jump(0, greatest)}, {jump(0, -greatest-1)}, {move(0, 0), jump(0, 2)}, {jump(0, 3), move(0, 0)},
-		{move(0, 32)}, {move(-1, 0)}, {cons(0, 0, 32)}, {set(32, "0")}, {set(0, "")}, {set(0, "00")}, {set(0, "1")},
-		{set(0, number(mostPairs)), set(0, "100")}, {{Op: api.OpMove, C: 1}}, {{Op: api.OpJump, Tree: "0"}}, {{Op: api.OpMove, A: greatest}},
 	}
 }
 
@@ -563,8 +518,8 @@ func invalid() []api.Program {
 func tooMany() []api.Program {
 	var l []api.Program
 	for r := mostRegs; r < api.MaxRegs; r++ {
-		l = append(l, api.Program{set(r, "0")}, api.Program{move(r, 0)}, api.Program{move(0, r)}, api.Program{cons(0, 0, r)},
-			api.Program{{Op: api.OpHead, B: r}}, api.Program{{Op: api.OpTail, B: r}}, api.Program{jump(r, 1)}, api.Program{move(1, 2), move(3, r), move(4, 5)})
+		l = append(l, api.Program{write.Set(r, "0")}, api.Program{write.Move(r, 0)}, api.Program{write.Move(0, r)}, api.Program{write.Cons(0, 0, r)},
+			api.Program{{Op: api.OpHead, B: r}}, api.Program{{Op: api.OpTail, B: r}}, api.Program{write.Jump(r, 1)}, api.Program{write.Move(1, 2), write.Move(3, r), write.Move(4, 5)})
 	}
 	return l
 }
@@ -573,7 +528,7 @@ func tooMany() []api.Program {
 func refused(t *testing.T, c composition, a []api.Program, want api.Errno) {
 	t.Helper()
 	if p, e := c.build(a); e != want || len(p) != 0 {
-		t.Errorf("%s of %s: %s, %d; not %d", c.name, show(a...), show(p), e, want)
+		t.Errorf("%s of %s: %s, %d; not %d", c.name, sample.Show(a...), sample.Show(p), e, want)
 	}
 }
 
@@ -593,30 +548,30 @@ func refusedAnywhere(t *testing.T, c composition, bad api.Program, others []api.
 }
 
 func TestErrForm(t *testing.T) {
-	others := []api.Program{nil, {move(3, 0)}, {move(31, 0)}, {move(-1, 0)}, slices.Repeat(api.Program{move(0, 0)}, api.MaxCode)}
+	others := []api.Program{nil, {write.Move(3, 0)}, {write.Move(31, 0)}, {write.Move(-1, 0)}, slices.Repeat(api.Program{write.Move(0, 0)}, api.MaxCode)}
 	for _, c := range compositions() {
-		for _, bad := range invalid() {
+		for _, bad := range sample.Invalid() {
 			refusedAnywhere(t, c, bad, others, api.ErrForm)
 		}
 	}
-	refused(t, anyNumber, append(slices.Repeat([]api.Program{{move(31, 0)}}, 5000), api.Program{{Op: api.Ops}}), api.ErrForm)
+	refused(t, anyNumber, append(slices.Repeat([]api.Program{{write.Move(31, 0)}}, 5000), api.Program{{Op: api.Ops}}), api.ErrForm)
 }
 
 func TestErrRegs(t *testing.T) {
-	others := []api.Program{nil, {move(3, 0)}, {move(31, 0)}, slices.Repeat(api.Program{move(0, 0)}, api.MaxCode)}
+	others := []api.Program{nil, {write.Move(3, 0)}, {write.Move(31, 0)}, slices.Repeat(api.Program{write.Move(0, 0)}, api.MaxCode)}
 	for _, c := range compositions() {
 		for _, bad := range tooMany() {
 			refusedAnywhere(t, c, bad, others, api.ErrRegs)
 		}
 		for i := range c.count {
 			a := make([]api.Program, c.count)
-			a[i] = api.Program{cons(0, mostRegs-1, 0), jump(1, -1)}
+			a[i] = api.Program{write.Cons(0, mostRegs-1, 0), write.Jump(1, -1)}
 			if p, e := c.build(a); e != api.OK || !slices.Equal(p, c.layout(a)) {
-				t.Errorf("%s of %s: %s, %d", c.name, show(a...), show(p), e)
+				t.Errorf("%s of %s: %s, %d", c.name, sample.Show(a...), sample.Show(p), e)
 			}
 		}
 	}
-	refused(t, anyNumber, append(slices.Repeat([]api.Program{{move(1, 0)}}, 5000), api.Program{move(28, 0)}), api.ErrRegs)
+	refused(t, anyNumber, append(slices.Repeat([]api.Program{{write.Move(1, 0)}}, 5000), api.Program{write.Move(28, 0)}), api.ErrRegs)
 }
 
 // The result has at most MaxCode instructions.
@@ -624,29 +579,29 @@ func TestErrSizeOfInstructions(t *testing.T) {
 	for _, c := range compositions() {
 		for i := range c.count {
 			for _, r := range []int{0, 1, 7, mostRegs - 1} {
-				a := slices.Repeat([]api.Program{{move(r, 0)}}, c.count)
+				a := slices.Repeat([]api.Program{{write.Move(r, 0)}}, c.count)
 				a[i] = nil
 				free := api.MaxCode - len(c.layout(a))
 				// A cleaning is in the layout already: the program that fills it uses one register.
-				a[i] = slices.Repeat(api.Program{move(0, 0)}, free)
+				a[i] = slices.Repeat(api.Program{write.Move(0, 0)}, free)
 				if p, e := c.build(a); e != api.OK || len(p) != api.MaxCode || !slices.Equal(p, c.layout(a)) {
 					t.Errorf("%s with %d instructions: %d, %d", c.name, free, len(p), e)
 				}
 				if free == api.MaxCode {
 					continue // one more is not valid
 				}
-				a[i] = append(a[i], jump(0, 1))
+				a[i] = append(a[i], write.Jump(0, 1))
 				refused(t, c, a, api.ErrSize)
 			}
 		}
 	}
 	for n, want := range map[int]api.Errno{143: api.OK, 144: api.ErrSize, 100000: api.ErrSize} {
-		p, e := build.Then(slices.Repeat([]api.Program{{move(27, 0)}}, n)...)
+		p, e := build.Then(slices.Repeat([]api.Program{{write.Move(27, 0)}}, n)...)
 		if e != want || e == api.OK && len(p) != n+27*(n-1) || e != api.OK && len(p) != 0 {
 			t.Errorf("Then of %d: %d instructions, %d", n, len(p), e)
 		}
 	}
-	long := slices.Repeat(api.Program{move(0, 0)}, api.MaxCode)
+	long := slices.Repeat(api.Program{write.Move(0, 0)}, api.MaxCode)
 	for _, n := range []int{2, 5000} {
 		refused(t, anyNumber, slices.Repeat([]api.Program{long}, n), api.ErrSize)
 	}
@@ -664,16 +619,16 @@ func treesOf(p api.Program) int {
 // filled returns a program whose trees have so many characters, not less than two.
 func filled(size int) api.Program {
 	if size%2 == 1 {
-		return api.Program{set(0, number(size/2))}
+		return api.Program{write.Set(0, sample.Number(size/2))}
 	}
-	return api.Program{set(0, number(size/2-1)), set(0, "0")}
+	return api.Program{write.Set(0, sample.Number(size/2-1)), write.Set(0, "0")}
 }
 
 // The trees of the result, those of the cleanings among them, have at most MaxTree characters.
 func TestErrSizeOfTrees(t *testing.T) {
 	for _, c := range compositions() {
 		for i := range c.count {
-			for _, others := range []api.Program{nil, {move(1, 0)}, {move(2, 0)}, {set(12, "11000")}, filled(1000001)} {
+			for _, others := range []api.Program{nil, {write.Move(1, 0)}, {write.Move(2, 0)}, {write.Set(12, "11000")}, filled(1000001)} {
 				a := slices.Repeat([]api.Program{others}, c.count)
 				a[i] = nil
 				free := api.MaxTree - treesOf(c.layout(a))
@@ -698,10 +653,10 @@ func TestErrSizeOfTrees(t *testing.T) {
 func TestNewMemory(t *testing.T) {
 	for _, c := range compositions() {
 		room := make(api.Program, 0, 100)
-		room = append(room, set(0, strings.Clone("11000")), set(3, strings.Clone("1011000")), jump(3, 1))
+		room = append(room, write.Set(0, strings.Clone("11000")), write.Set(3, strings.Clone("1011000")), write.Jump(3, 1))
 		beyond := room[:100]
 		for i := len(room); i < 100; i++ {
-			beyond[i] = move(1, 1)
+			beyond[i] = write.Move(1, 1)
 		}
 		kept, a := slices.Clone(beyond), slices.Repeat([]api.Program{room}, c.count)
 		p, e := c.build(a)
@@ -721,7 +676,7 @@ func TestNewMemory(t *testing.T) {
 			t.Errorf("%s changes its arguments", c.name)
 		}
 		if p, e := c.build(a); e != api.OK || !slices.Equal(p, want) {
-			t.Errorf("%s returns something else the second time: %s, %d", c.name, show(p), e)
+			t.Errorf("%s returns something else the second time: %s, %d", c.name, sample.Show(p), e)
 		}
 		for _, q := range a {
 			if len(q) != len(room) || &q[0] != &room[0] {

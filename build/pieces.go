@@ -6,6 +6,7 @@ import (
 
 	"narcissus/api"
 	"narcissus/code"
+	"narcissus/write"
 )
 
 const (
@@ -13,28 +14,23 @@ const (
 	notNil  = "100" // what a register contains with which a jump is always made
 )
 
-func set(a int, s string) api.Instr { return api.Instr{Op: api.OpSet, A: a, Tree: s} }
-func move(a, b int) api.Instr       { return api.Instr{Op: api.OpMove, A: a, B: b} }
-func cons(a, b, c int) api.Instr    { return api.Instr{Op: api.OpCons, A: a, B: b, C: c} }
-func jump(a, b int) api.Instr       { return api.Instr{Op: api.OpJump, A: a, B: b} }
-
 // cleaning returns the cleaning of a program that uses as many registers.
 func cleaning(regs int) api.Program {
 	var p api.Program
 	for r := 1; r < regs; r++ {
-		p = append(p, set(r, nilTree))
+		p = append(p, write.Set(r, nilTree))
 	}
 	return p
 }
 
 // again prepares a program that uses as many registers for a run on what register n contains.
 func again(n, regs int) api.Program {
-	return slices.Concat(api.Program{move(0, n)}, cleaning(regs))
+	return slices.Concat(api.Program{write.Move(0, n)}, cleaning(regs))
 }
 
 // skip leaves out the next instructions, as many as over says, by means of register n.
 func skip(n, over int) api.Program {
-	return api.Program{set(n, notNil), jump(n, 1+over)}
+	return api.Program{write.Set(n, notNil), write.Jump(n, 1+over)}
 }
 
 // join returns the program of some pieces, if it keeps to the limits. It shares no memory with them.

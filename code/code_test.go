@@ -10,21 +10,17 @@ import (
 
 	"narcissus/api"
 	"narcissus/code"
+	"narcissus/sample"
 	"narcissus/tree"
+	"narcissus/write"
 )
 
-const greatest = int(^uint(0) >> 1)
-
 // The document's notations, written down once more, to hold the package against them.
-
-func number(n int) string { return strings.Repeat("10", n) + "0" }
-
-func pair(a, b string) string { return "1" + a + b }
 
 func list(l []string) string {
 	s := "0"
 	for _, x := range slices.Backward(l) {
-		s = pair(x, s)
+		s = sample.Pair(x, s)
 	}
 	return s
 }
@@ -38,19 +34,19 @@ func codeOf(p api.Program) string {
 }
 
 func codeOfInstr(in api.Instr) string {
-	a, op := number(in.A), number(in.Op)
+	a, op := sample.Number(in.A), sample.Number(in.Op)
 	switch in.Op {
 	case api.OpSet:
-		return pair(op, pair(a, in.Tree))
+		return sample.Pair(op, sample.Pair(a, in.Tree))
 	case api.OpCons:
-		return pair(op, pair(a, pair(number(in.B), number(in.C))))
+		return sample.Pair(op, sample.Pair(a, sample.Pair(sample.Number(in.B), sample.Number(in.C))))
 	case api.OpJump:
 		if in.B < 0 {
-			return pair(op, pair(a, pair("100", number(-in.B))))
+			return sample.Pair(op, sample.Pair(a, sample.Pair("100", sample.Number(-in.B))))
 		}
-		return pair(op, pair(a, pair("0", number(in.B))))
+		return sample.Pair(op, sample.Pair(a, sample.Pair("0", sample.Number(in.B))))
 	}
-	return pair(op, pair(a, number(in.B)))
+	return sample.Pair(op, sample.Pair(a, sample.Number(in.B)))
 }
 
 func textOf(p api.Program) string {
@@ -73,21 +69,14 @@ func textOfInstr(in api.Instr) string {
 	return s + strconv.Itoa(in.B)
 }
 
-func set(a int, s string) api.Instr { return api.Instr{Op: api.OpSet, A: a, Tree: s} }
-func move(a, b int) api.Instr       { return api.Instr{Op: api.OpMove, A: a, B: b} }
-func cons(a, b, c int) api.Instr    { return api.Instr{Op: api.OpCons, A: a, B: b, C: c} }
-func head(a, b int) api.Instr       { return api.Instr{Op: api.OpHead, A: a, B: b} }
-func tail(a, b int) api.Instr       { return api.Instr{Op: api.OpTail, A: a, B: b} }
-func jump(a, b int) api.Instr       { return api.Instr{Op: api.OpJump, A: a, B: b} }
-
-// some are instructions of all kinds, from the least numbers to the greatest ones.
+// some are instructions of all kinds, from the least numbers to the sample.Greatest ones.
 func some() []api.Instr {
 	return []api.Instr{
-		set(0, "0"), set(31, "100"), set(7, "1100100"), set(1, "11000"),
-		move(0, 0), move(31, 0), move(0, 31), move(3, 12),
-		cons(0, 0, 0), cons(31, 30, 29), cons(1, 2, 31), cons(5, 31, 0),
-		head(0, 0), head(31, 31), head(2, 9), tail(0, 0), tail(31, 30), tail(9, 2),
-		jump(0, 0), jump(31, 1), jump(4, -1), jump(0, 2), jump(1, -2),
+		write.Set(0, "0"), write.Set(31, "100"), write.Set(7, "1100100"), write.Set(1, "11000"),
+		write.Move(0, 0), write.Move(31, 0), write.Move(0, 31), write.Move(3, 12),
+		write.Cons(0, 0, 0), write.Cons(31, 30, 29), write.Cons(1, 2, 31), write.Cons(5, 31, 0),
+		write.Head(0, 0), write.Head(31, 31), write.Head(2, 9), write.Tail(0, 0), write.Tail(31, 30), write.Tail(9, 2),
+		write.Jump(0, 0), write.Jump(31, 1), write.Jump(4, -1), write.Jump(0, 2), write.Jump(1, -2),
 	}
 }
 
@@ -97,15 +86,15 @@ func long() api.Program {
 	for i := range 600 {
 		p = append(p, some()[i%18])
 	}
-	p[0], p[1], p[598], p[599] = jump(0, 600), jump(31, 599), jump(31, -598), jump(1, -599)
+	p[0], p[1], p[598], p[599] = write.Jump(0, 600), write.Jump(31, 599), write.Jump(31, -598), write.Jump(1, -599)
 	return p
 }
 
 // programs returns valid programs.
 func programs() []api.Program {
-	l := []api.Program{nil, {}, long(), slices.Repeat(api.Program{move(1, 0)}, api.MaxCode)}
+	l := []api.Program{nil, {}, long(), slices.Repeat(api.Program{write.Move(1, 0)}, api.MaxCode)}
 	for _, a := range some() {
-		l = append(l, api.Program{move(0, 1), move(0, 1), a, move(0, 1)})
+		l = append(l, api.Program{write.Move(0, 1), write.Move(0, 1), a, write.Move(0, 1)})
 		if a.Op == api.OpJump && (a.B < 0 || a.B > 1) {
 			continue
 		}
@@ -119,47 +108,13 @@ func programs() []api.Program {
 	return l
 }
 
-// invalid returns programs that are not valid.
-func invalid() []api.Program {
-	l := []api.Program{
-		slices.Repeat(api.Program{move(1, 0)}, api.MaxCode+1),
-		{{Op: -1}}, {{Op: api.Ops}}, {{Op: greatest}}, {{Op: -greatest - 1}}, {move(0, 0), {Op: api.Ops}},
-		{set(0, "")}, {set(0, "1")}, {set(0, "00")}, {set(0, "2")}, {set(0, number(api.MaxTree/2))},
-		largeTrees(),
-		{{Op: api.OpSet}}, {{Op: api.OpSet, Tree: "0", B: 1}}, {{Op: api.OpSet, Tree: "0", C: 1}}, {{Op: api.OpSet, Tree: "0", B: -1}},
-		{{Op: api.OpMove, C: 1}}, {{Op: api.OpHead, C: 1}}, {{Op: api.OpTail, C: -1}}, {{Op: api.OpJump, C: 1}},
-		{{Op: api.OpMove, Tree: "0"}}, {{Op: api.OpCons, Tree: "0"}}, {{Op: api.OpHead, Tree: "0"}}, {{Op: api.OpTail, Tree: "0"}}, {{Op: api.OpJump, Tree: "0"}},
-		{{Op: api.OpCons, Tree: "1"}},
-		{jump(0, 2)}, {jump(0, -1)}, {move(0, 0), jump(0, 2)}, {move(0, 0), jump(0, -2)}, {jump(0, 3), move(0, 0)},
-		{jump(0, greatest)}, {jump(0, -greatest-1)}, {move(0, 0), jump(0, greatest)}, {move(0, 0), jump(0, -greatest-1)},
-	}
-	for _, r := range []int{-1, 32, 1000, greatest, -greatest - 1} {
-		l = append(l, api.Program{set(r, "0")}, api.Program{move(r, 0)}, api.Program{move(0, r)}, api.Program{head(r, 0)}, api.Program{head(0, r)},
-			api.Program{tail(r, 0)}, api.Program{tail(0, r)}, api.Program{cons(r, 0, 0)}, api.Program{cons(0, r, 0)}, api.Program{cons(0, 0, r)},
-			api.Program{jump(r, 0)}, api.Program{move(0, 0), cons(0, 0, r), move(0, 0)})
-	}
-	return l
-}
-
-// largeTrees is a program whose trees have one character more together than those of a valid one.
-func largeTrees() api.Program {
-	return api.Program{set(0, number(499999)), set(0, number(499999)), set(0, "0"), set(0, "0"), set(0, "0")}
-}
-
-func short(s string) string {
-	if len(s) > 60 {
-		return s[:60] + ".."
-	}
-	return s
-}
-
 func TestValid(t *testing.T) {
 	for _, p := range programs() {
 		if !code.Valid(p) {
-			t.Errorf("not valid: %s", short(textOf(p)))
+			t.Errorf("not valid: %s", sample.Short(textOf(p)))
 		}
 	}
-	for i, p := range invalid() {
+	for i, p := range sample.Invalid() {
 		if code.Valid(p) {
 			t.Errorf("valid: program %d of %d instructions", i, len(p))
 		}
@@ -167,21 +122,21 @@ func TestValid(t *testing.T) {
 }
 
 func TestValidAtTheLimitOfTrees(t *testing.T) {
-	half := number(499999) // of 999999 characters
+	half := sample.Number(499999) // of 999999 characters
 	for _, c := range []struct {
 		p    api.Program
 		want bool
 	}{
-		{api.Program{set(0, number(999999))}, true},
-		{api.Program{set(0, number(999999)), set(0, "0")}, true},
-		{api.Program{set(0, half), move(0, 0), set(1, half)}, true},
-		{api.Program{set(0, half), set(1, half), set(2, "0"), set(3, "0")}, true},
-		{api.Program{set(0, half), set(1, half), set(2, "0"), set(3, "100")}, false},
-		{api.Program{set(0, number(999999)), set(0, "0"), set(0, "0")}, false},
-		{api.Program{set(0, number(999999)), set(0, number(999999))}, false},
+		{api.Program{write.Set(0, sample.Number(999999))}, true},
+		{api.Program{write.Set(0, sample.Number(999999)), write.Set(0, "0")}, true},
+		{api.Program{write.Set(0, half), write.Move(0, 0), write.Set(1, half)}, true},
+		{api.Program{write.Set(0, half), write.Set(1, half), write.Set(2, "0"), write.Set(3, "0")}, true},
+		{api.Program{write.Set(0, half), write.Set(1, half), write.Set(2, "0"), write.Set(3, "100")}, false},
+		{api.Program{write.Set(0, sample.Number(999999)), write.Set(0, "0"), write.Set(0, "0")}, false},
+		{api.Program{write.Set(0, sample.Number(999999)), write.Set(0, sample.Number(999999))}, false},
 	} {
 		if code.Valid(c.p) != c.want {
-			t.Errorf("Valid(%s) is %v", short(textOf(c.p)), !c.want)
+			t.Errorf("Valid(%s) is %v", sample.Short(textOf(c.p)), !c.want)
 		}
 	}
 }
@@ -191,8 +146,8 @@ func TestValidJumps(t *testing.T) {
 	for n := range 6 {
 		for i := range n {
 			for b := -n - 2; b <= n+2; b++ {
-				p := slices.Repeat(api.Program{move(0, 0)}, n)
-				p[i] = jump(0, b)
+				p := slices.Repeat(api.Program{write.Move(0, 0)}, n)
+				p[i] = write.Jump(0, b)
 				if want := i+b >= 0 && i+b <= n; code.Valid(p) != want {
 					t.Errorf("Valid(%s) is %v", textOf(p), !want)
 				}
@@ -206,11 +161,11 @@ func TestRegs(t *testing.T) {
 		p    api.Program
 		want int
 	}{
-		{nil, 1}, {api.Program{set(0, "100")}, 1}, {api.Program{move(0, 0)}, 1}, {api.Program{set(4, "0")}, 5},
-		{api.Program{move(3, 0)}, 4}, {api.Program{move(0, 3)}, 4}, {api.Program{head(6, 2)}, 7}, {api.Program{head(2, 6)}, 7},
-		{api.Program{tail(8, 2)}, 9}, {api.Program{tail(2, 8)}, 9}, {api.Program{cons(9, 1, 2)}, 10}, {api.Program{cons(1, 9, 2)}, 10}, {api.Program{cons(1, 2, 9)}, 10},
-		{api.Program{jump(5, 1)}, 6}, {api.Program{jump(1, 3), move(0, 0), move(0, 0)}, 2}, {api.Program{move(0, 0), move(0, 0), jump(0, -2)}, 1},
-		{api.Program{cons(0, 4, 7), jump(0, 1)}, 8}, {api.Program{move(31, 0), set(2, "0")}, 32}, {api.Program{set(2, "0"), cons(1, 31, 3), jump(7, 0)}, 32},
+		{nil, 1}, {api.Program{write.Set(0, "100")}, 1}, {api.Program{write.Move(0, 0)}, 1}, {api.Program{write.Set(4, "0")}, 5},
+		{api.Program{write.Move(3, 0)}, 4}, {api.Program{write.Move(0, 3)}, 4}, {api.Program{write.Head(6, 2)}, 7}, {api.Program{write.Head(2, 6)}, 7},
+		{api.Program{write.Tail(8, 2)}, 9}, {api.Program{write.Tail(2, 8)}, 9}, {api.Program{write.Cons(9, 1, 2)}, 10}, {api.Program{write.Cons(1, 9, 2)}, 10}, {api.Program{write.Cons(1, 2, 9)}, 10},
+		{api.Program{write.Jump(5, 1)}, 6}, {api.Program{write.Jump(1, 3), write.Move(0, 0), write.Move(0, 0)}, 2}, {api.Program{write.Move(0, 0), write.Move(0, 0), write.Jump(0, -2)}, 1},
+		{api.Program{write.Cons(0, 4, 7), write.Jump(0, 1)}, 8}, {api.Program{write.Move(31, 0), write.Set(2, "0")}, 32}, {api.Program{write.Set(2, "0"), write.Cons(1, 31, 3), write.Jump(7, 0)}, 32},
 	} {
 		if n, e := code.Regs(c.p); e != api.OK || n != c.want {
 			t.Errorf("Regs(%s) = %d, %d", textOf(c.p), n, e)
@@ -226,25 +181,25 @@ func TestDecodeOfCode(t *testing.T) {
 		}
 		s, e := code.Code(p)
 		if e != api.OK || s != codeOf(p) {
-			t.Errorf("Code(%s) = %s, %d", short(textOf(p)), short(s), e)
+			t.Errorf("Code(%s) = %s, %d", sample.Short(textOf(p)), sample.Short(s), e)
 		}
 		if q, e := code.Decode(s); e != api.OK || !slices.Equal(q, p) {
-			t.Errorf("Decode of Code(%s) = %s, %d", short(textOf(p)), short(textOf(q)), e)
+			t.Errorf("Decode of Code(%s) = %s, %d", sample.Short(textOf(p)), sample.Short(textOf(q)), e)
 		}
 	}
 }
 
 func TestCodeOfTheLongest(t *testing.T) {
-	p := slices.Repeat(api.Program{set(0, "0"), jump(31, 0)}, api.MaxCode/2)
-	p[0], p[api.MaxCode-1] = jump(2, api.MaxCode), jump(31, 1-api.MaxCode)
+	p := slices.Repeat(api.Program{write.Set(0, "0"), write.Jump(31, 0)}, api.MaxCode/2)
+	p[0], p[api.MaxCode-1] = write.Jump(2, api.MaxCode), write.Jump(31, 1-api.MaxCode)
 	want := codeOf(p)
 	if s, e := code.Code(p); e != api.OK || s != want {
-		t.Errorf("%s, %d", short(s), e)
+		t.Errorf("%s, %d", sample.Short(s), e)
 	}
 	if q, e := code.Decode(want); e != api.OK || !slices.Equal(q, p) {
 		t.Errorf("%d instructions, %d", len(q), e)
 	}
-	if q, e := code.Decode(codeOf(append(p, move(0, 0)))); e != api.ErrNone || len(q) != 0 {
+	if q, e := code.Decode(codeOf(append(p, write.Move(0, 0)))); e != api.ErrNone || len(q) != 0 {
 		t.Errorf("%d instructions, %d", len(q), e)
 	}
 }
@@ -252,26 +207,26 @@ func TestCodeOfTheLongest(t *testing.T) {
 func TestCodeTooLarge(t *testing.T) {
 	far := make(api.Program, api.MaxCode)
 	for i := range far {
-		far[i] = jump(0, api.MaxCode-i)
+		far[i] = write.Jump(0, api.MaxCode-i)
 	}
 	for _, c := range []struct {
 		p    api.Program
 		want api.Errno
 	}{
-		{api.Program{set(0, number(999996))}, api.OK}, // the code has 1999999 characters
-		{api.Program{set(0, number(999997))}, api.ErrSize},
-		{api.Program{set(0, number(999999))}, api.ErrSize},
-		{api.Program{set(31, number(999965))}, api.OK},
-		{api.Program{set(31, number(999966))}, api.ErrSize},
-		{api.Program{set(0, number(499996)), set(0, number(499996))}, api.OK},
-		{api.Program{set(0, number(499997)), set(0, number(499997))}, api.ErrSize},
-		{api.Program{set(0, number(999997)), {Op: api.Ops}}, api.ErrForm},
+		{api.Program{write.Set(0, sample.Number(999996))}, api.OK}, // the code has 1999999 characters
+		{api.Program{write.Set(0, sample.Number(999997))}, api.ErrSize},
+		{api.Program{write.Set(0, sample.Number(999999))}, api.ErrSize},
+		{api.Program{write.Set(31, sample.Number(999965))}, api.OK},
+		{api.Program{write.Set(31, sample.Number(999966))}, api.ErrSize},
+		{api.Program{write.Set(0, sample.Number(499996)), write.Set(0, sample.Number(499996))}, api.OK},
+		{api.Program{write.Set(0, sample.Number(499997)), write.Set(0, sample.Number(499997))}, api.ErrSize},
+		{api.Program{write.Set(0, sample.Number(999997)), {Op: api.Ops}}, api.ErrForm},
 		{far, api.ErrSize},
 		{far[:1000:1000], api.ErrForm}, // the jumps lead out of it
 	} {
 		s, e := code.Code(c.p)
 		if e != c.want || e != api.OK && s != "" || e == api.OK && s != codeOf(c.p) {
-			t.Errorf("%d instructions: %s, %d", len(c.p), short(s), e)
+			t.Errorf("%d instructions: %s, %d", len(c.p), sample.Short(s), e)
 		}
 		if e != api.OK {
 			continue
@@ -280,23 +235,6 @@ func TestCodeTooLarge(t *testing.T) {
 			t.Errorf("%d instructions, %d", len(q), e)
 		}
 	}
-}
-
-// trees returns all trees with the numbers of pairs from 0 to most, the smaller ones first.
-func trees(most int) []string {
-	byPairs := [][]string{{"0"}}
-	for k := 1; k <= most; k++ {
-		var l []string
-		for i := range k {
-			for _, h := range byPairs[i] {
-				for _, r := range byPairs[k-1-i] {
-					l = append(l, pair(h, r))
-				}
-			}
-		}
-		byPairs = append(byPairs, l)
-	}
-	return slices.Concat(byPairs...)
 }
 
 // small returns the instructions whose codes have at most the given number of pairs.
@@ -309,7 +247,7 @@ func small(pairs int) []api.Instr {
 					l = append(l, api.Instr{Op: op, A: a, B: b, C: c})
 				}
 			}
-			for _, s := range trees(pairs - 2) {
+			for _, s := range sample.Trees(pairs - 2) {
 				l = append(l, api.Instr{Op: op, A: a, Tree: s})
 			}
 		}
@@ -337,7 +275,7 @@ func TestDecodeOfAllSmallTrees(t *testing.T) {
 		}
 	}
 	extend(nil, most)
-	for _, s := range trees(most) {
+	for _, s := range sample.Trees(most) {
 		p, e := code.Decode(s)
 		q, ok := want[s]
 		if ok && (e != api.OK || !slices.Equal(p, q)) {
@@ -384,61 +322,63 @@ func TestCodesDiffer(t *testing.T) {
 }
 
 func TestDecodeRefuses(t *testing.T) {
-	for _, s := range []string{"", "1", "00", "2", "10", "11101010100100", "111010101001000 ", number(api.MaxTree / 2)} {
+	for _, s := range []string{"", "1", "00", "2", "10", "11101010100100", "111010101001000 ", sample.Number(api.MaxTree / 2)} {
 		if p, e := code.Decode(s); e != api.ErrForm || len(p) != 0 {
-			t.Errorf("Decode(%q) = %s, %d", short(s), textOf(p), e)
+			t.Errorf("Decode(%q) = %s, %d", sample.Short(s), textOf(p), e)
 		}
 	}
-	one := func(op, rest string) string { return list([]string{pair(number(0), pair("0", "0")), pair(op, rest)}) }
+	one := func(op, rest string) string {
+		return list([]string{sample.Pair(sample.Number(0), sample.Pair("0", "0")), sample.Pair(op, rest)})
+	}
 	for name, s := range map[string]string{
 		"an element that is nil":     list([]string{"0"}),
-		"no fields":                  one(number(api.OpSet), "0"),
-		"no number of an Op":         one("11000", pair("0", "0")),
-		"an Op out of the table":     one(number(api.Ops), pair("0", "0")),
-		"a large Op":                 one(number(5000), pair("0", "0")),
-		"register 32":                one(number(api.OpSet), pair(number(32), "0")),
-		"register 32 of a move":      one(number(api.OpMove), pair(number(0), number(32))),
-		"no register":                one(number(api.OpMove), pair("11000", "0")),
-		"no second register":         one(number(api.OpMove), pair("0", "11000")),
-		"a cons with two registers":  one(number(api.OpCons), pair("0", "0")),
-		"a cons with no third":       one(number(api.OpCons), pair("0", pair("0", "11000"))),
-		"a cons with four registers": one(number(api.OpCons), pair("0", pair("0", pair("11000", "0")))),
-		"a jump without a sign":      one(number(api.OpJump), pair("0", "0")),
-		"another sign":               one(number(api.OpJump), pair("0", pair("10100", "10100"))),
-		"one more other sign":        one(number(api.OpJump), pair("0", pair("11000", "100"))),
-		"0 backwards":                one(number(api.OpJump), pair("0", pair("100", "0"))),
-		"no distance":                one(number(api.OpJump), pair("0", pair("0", "11000"))),
-		"no distance backwards":      one(number(api.OpJump), pair("0", pair("100", "11000"))),
-		"a jump behind the end":      one(number(api.OpJump), pair("0", pair("0", number(2)))),
-		"a jump before the start":    one(number(api.OpJump), pair("0", pair("100", number(2)))),
-		"a far jump":                 one(number(api.OpJump), pair("0", pair("0", number(900000)))),
-		"a far jump backwards":       one(number(api.OpJump), pair("0", pair("100", number(900000)))),
-		"too many instructions":      codeOf(slices.Repeat(api.Program{move(0, 0)}, api.MaxCode+1)),
-		"a list of many nils":        number(999999),
+		"no fields":                  one(sample.Number(api.OpSet), "0"),
+		"no number of an Op":         one("11000", sample.Pair("0", "0")),
+		"an Op out of the table":     one(sample.Number(api.Ops), sample.Pair("0", "0")),
+		"a large Op":                 one(sample.Number(5000), sample.Pair("0", "0")),
+		"register 32":                one(sample.Number(api.OpSet), sample.Pair(sample.Number(32), "0")),
+		"register 32 of a move":      one(sample.Number(api.OpMove), sample.Pair(sample.Number(0), sample.Number(32))),
+		"no register":                one(sample.Number(api.OpMove), sample.Pair("11000", "0")),
+		"no second register":         one(sample.Number(api.OpMove), sample.Pair("0", "11000")),
+		"a cons with two registers":  one(sample.Number(api.OpCons), sample.Pair("0", "0")),
+		"a cons with no third":       one(sample.Number(api.OpCons), sample.Pair("0", sample.Pair("0", "11000"))),
+		"a cons with four registers": one(sample.Number(api.OpCons), sample.Pair("0", sample.Pair("0", sample.Pair("11000", "0")))),
+		"a jump without a sign":      one(sample.Number(api.OpJump), sample.Pair("0", "0")),
+		"another sign":               one(sample.Number(api.OpJump), sample.Pair("0", sample.Pair("10100", "10100"))),
+		"one more other sign":        one(sample.Number(api.OpJump), sample.Pair("0", sample.Pair("11000", "100"))),
+		"0 backwards":                one(sample.Number(api.OpJump), sample.Pair("0", sample.Pair("100", "0"))),
+		"no distance":                one(sample.Number(api.OpJump), sample.Pair("0", sample.Pair("0", "11000"))),
+		"no distance backwards":      one(sample.Number(api.OpJump), sample.Pair("0", sample.Pair("100", "11000"))),
+		"a jump behind the end":      one(sample.Number(api.OpJump), sample.Pair("0", sample.Pair("0", sample.Number(2)))),
+		"a jump before the start":    one(sample.Number(api.OpJump), sample.Pair("0", sample.Pair("100", sample.Number(2)))),
+		"a far jump":                 one(sample.Number(api.OpJump), sample.Pair("0", sample.Pair("0", sample.Number(900000)))),
+		"a far jump backwards":       one(sample.Number(api.OpJump), sample.Pair("0", sample.Pair("100", sample.Number(900000)))),
+		"too many instructions":      codeOf(slices.Repeat(api.Program{write.Move(0, 0)}, api.MaxCode+1)),
+		"a list of many nils":        sample.Number(999999),
 		"a tree of many heads":       strings.Repeat("1", 999999) + strings.Repeat("0", 1000000),
 	} {
 		if p, e := code.Decode(s); e != api.ErrNone || len(p) != 0 {
-			t.Errorf("%s: %s, %d", name, short(textOf(p)), e)
+			t.Errorf("%s: %s, %d", name, sample.Short(textOf(p)), e)
 		}
 	}
 }
 
 // P2.2: Parse of Text is the program.
 func TestParseOfText(t *testing.T) {
-	for _, p := range append(programs(), api.Program{set(0, number(999999))}, slices.Repeat(api.Program{cons(31, 30, 29)}, api.MaxCode)) {
+	for _, p := range append(programs(), api.Program{write.Set(0, sample.Number(999999))}, slices.Repeat(api.Program{write.Cons(31, 30, 29)}, api.MaxCode)) {
 		s, e := code.Text(p)
 		if e != api.OK || s != textOf(p) {
-			t.Errorf("Text(%s) = %s, %d", short(textOf(p)), short(s), e)
+			t.Errorf("Text(%s) = %s, %d", sample.Short(textOf(p)), sample.Short(s), e)
 		}
 		if q, e := code.Parse(s); e != api.OK || !slices.Equal(q, p) {
-			t.Errorf("Parse of Text(%s) = %s, %d", short(textOf(p)), short(textOf(q)), e)
+			t.Errorf("Parse of Text(%s) = %s, %d", sample.Short(textOf(p)), sample.Short(textOf(q)), e)
 		}
 	}
 }
 
 // P2.2: what Parse accepts is the Text of what it returns. The strings differ from those of programs by one byte.
 func TestParseOfAlmostTexts(t *testing.T) {
-	p := api.Program{set(31, "100"), move(2, 10), cons(0, 1, 20), jump(0, -2), head(3, 4), tail(30, 5), jump(1, 1)}
+	p := api.Program{write.Set(31, "100"), write.Move(2, 10), write.Cons(0, 1, 20), write.Jump(0, -2), write.Head(3, 4), write.Tail(30, 5), write.Jump(1, 1)}
 	accepted := 0
 	for s := range almost(textOf(p)) {
 		q, e := code.Parse(s)
@@ -480,13 +420,13 @@ func TestParseRefuses(t *testing.T) {
 		"cons 0 0", "cons 0 0 0 0", "cons 0 0 32", "cons 0 0 0 ", "head 0 0 0", "head 0,0", "head\t0 0", "tail 0 0\n", "tail 00 0", "tail 0 0;", "tail 0 0; ", "; tail 0 0", "tail 0 0;tail 0 0", "tail 0 0 ; tail 0 0", "tail 0 0;  tail 0 0", "tail 0 0; ; tail 0 0", " tail 0 0", "tail 0 0 ",
 		"jump 0", "jump 0 2", "jump 0 -1", "jump 0 +1", "jump 0 01", "jump 0 -0", "jump 0 -", "jump 0 1.0", "jump 0 1 0", "move 0 0; jump 0 -2", "move 0 0; jump 0 -01", "jump 0 99999999999999999999", "jump 0 -99999999999999999999", "jump 0 9223372036854775807", "jump 0 -9223372036854775808",
 		"head \uff10 0", "head \u0661 0", "head 0 0\x00", "\xff", "head 0 0\xff",
-		textOf(slices.Repeat(api.Program{move(0, 0)}, api.MaxCode+1)), textOf(largeTrees()),
-		"set 0 " + number(api.MaxTree/2), "set 0 " + strings.Repeat("0", api.MaxText), "head 0 " + strings.Repeat("0", api.MaxText), "head 0 " + strings.Repeat("9", api.MaxText-7),
+		textOf(slices.Repeat(api.Program{write.Move(0, 0)}, api.MaxCode+1)), textOf(api.Program{write.Set(0, sample.Number(sample.MostPairs)), write.Set(0, "0"), write.Set(0, "0")}),
+		"set 0 " + sample.Number(api.MaxTree/2), "set 0 " + strings.Repeat("0", api.MaxText), "head 0 " + strings.Repeat("0", api.MaxText), "head 0 " + strings.Repeat("9", api.MaxText-7),
 		strings.Repeat(" ", api.MaxText), strings.Repeat("; ", api.MaxText/2), strings.Repeat("; ", api.MaxText), strings.Repeat("move 0 0; ", api.MaxText/10) + "move 0 0",
 	}
 	for _, s := range l {
 		if p, e := code.Parse(s); e != api.ErrParse || len(p) != 0 {
-			t.Errorf("Parse(%q) = %s, %d", short(s), short(textOf(p)), e)
+			t.Errorf("Parse(%q) = %s, %d", sample.Short(s), sample.Short(textOf(p)), e)
 		}
 	}
 }
@@ -500,29 +440,29 @@ func TestItemsOfCode(t *testing.T) {
 		s, _ := code.Code(p)
 		l, e := tree.Items(s)
 		if e != api.OK || len(l) != len(p) {
-			t.Fatalf("%s: %d items, %d", short(textOf(p)), len(l), e)
+			t.Fatalf("%s: %d items, %d", sample.Short(textOf(p)), len(l), e)
 		}
 		for i, in := range p {
 			if l[i] != codeOfInstr(in) {
-				t.Errorf("%s: the item %d is %s", short(textOf(p)), i, short(l[i]))
+				t.Errorf("%s: the item %d is %s", sample.Short(textOf(p)), i, sample.Short(l[i]))
 			}
 		}
 		if r, e := tree.List(l); e != api.OK || r != s {
-			t.Errorf("%s: the list of the items is %s, %d", short(textOf(p)), short(r), e)
+			t.Errorf("%s: the list of the items is %s, %d", sample.Short(textOf(p)), sample.Short(r), e)
 		}
 	}
 }
 
 func TestInvalidPrograms(t *testing.T) {
-	for i, p := range invalid() {
+	for i, p := range sample.Invalid() {
 		if n, e := code.Regs(p); e != api.ErrForm || n != 0 {
 			t.Errorf("Regs of program %d: %d, %d", i, n, e)
 		}
 		if s, e := code.Code(p); e != api.ErrForm || s != "" {
-			t.Errorf("Code of program %d: %s, %d", i, short(s), e)
+			t.Errorf("Code of program %d: %s, %d", i, sample.Short(s), e)
 		}
 		if s, e := code.Text(p); e != api.ErrForm || s != "" {
-			t.Errorf("Text of program %d: %s, %d", i, short(s), e)
+			t.Errorf("Text of program %d: %s, %d", i, sample.Short(s), e)
 		}
 	}
 }
@@ -555,7 +495,7 @@ func TestNewMemory(t *testing.T) {
 			}
 		}
 	}
-	one := api.Program{set(0, "1100100")}
+	one := api.Program{write.Set(0, "1100100")}
 	if s, e := code.Text(one); e != api.OK || within(s, one[0].Tree) || within(one[0].Tree, s) {
 		t.Error("the string of a program shares memory with it")
 	}
@@ -572,9 +512,9 @@ func within(part, s string) bool {
 // The examples of the chapter.
 func TestExamples(t *testing.T) {
 	texts := map[string]api.Program{
-		"tail 0 0":                         {tail(0, 0)},
-		"jump 0 1":                         {jump(0, 1)},
-		"set 1 100; cons 0 1 0; jump 0 -2": {set(1, "100"), cons(0, 1, 0), jump(0, -2)},
+		"tail 0 0":                         {write.Tail(0, 0)},
+		"jump 0 1":                         {write.Jump(0, 1)},
+		"set 1 100; cons 0 1 0; jump 0 -2": {write.Set(1, "100"), write.Cons(0, 1, 0), write.Jump(0, -2)},
 		"":                                 {},
 	}
 	for _, s := range slices.Sorted(maps.Keys(texts)) {
@@ -584,10 +524,10 @@ func TestExamples(t *testing.T) {
 			t.Errorf("%q: %q, %d, %d", s, u, e, f)
 		}
 	}
-	if s, e := code.Code(api.Program{tail(0, 0)}); e != api.OK || s != "111010101001000" {
+	if s, e := code.Code(api.Program{write.Tail(0, 0)}); e != api.OK || s != "111010101001000" {
 		t.Error(s, e)
 	}
-	if code.Valid(api.Program{jump(0, 2)}) || code.Valid(api.Program{move(0, 32)}) || !code.Valid(api.Program{jump(0, 1)}) {
+	if code.Valid(api.Program{write.Jump(0, 2)}) || code.Valid(api.Program{write.Move(0, 32)}) || !code.Valid(api.Program{write.Jump(0, 1)}) {
 		t.Error("jump 0 1 is valid, jump 0 2 and move 0 32 are not")
 	}
 }

@@ -7,74 +7,22 @@ import (
 	"unsafe"
 
 	"narcissus/api"
+	"narcissus/sample"
 	"narcissus/tree"
 )
-
-const mostPairs = 999999 // pairs of the longest valid tree
-
-// trees returns all trees with the numbers of pairs from 0 to most, the smaller ones first.
-func trees(most int) []string {
-	byPairs := [][]string{{"0"}}
-	for k := 1; k <= most; k++ {
-		var l []string
-		for i := range k {
-			for _, head := range byPairs[i] {
-				for _, tail := range byPairs[k-1-i] {
-					l = append(l, "1"+head+tail)
-				}
-			}
-		}
-		byPairs = append(byPairs, l)
-	}
-	return slices.Concat(byPairs...)
-}
-
-// chain is the number n as a tree, nested in the tails.
-func chain(n int) string { return strings.Repeat("10", n) + "0" }
-
-// comb is a tree with n pairs that is nested in the heads.
-func comb(n int) string { return strings.Repeat("1", n) + strings.Repeat("0", n+1) }
 
 // zigzag is a tree with 2n pairs that is nested in the tail of the head of the tail and so on.
 func zigzag(n int) string { return strings.Repeat("110", n) + "0" + strings.Repeat("0", n) }
 
-// full is the tree in which every path has the length depth.
-func full(depth int) string {
-	s := "0"
-	for range depth {
-		s = "1" + s + s
-	}
-	return s
-}
-
-// invalid returns strings that are no valid trees.
-func invalid() []string {
-	return []string{
-		"", "1", "10", "11", "1010", "110", // stop too early
-		"00", "01", "1000", "1001", "100100", // something behind the tree
-		"2", "a", "102", "120", "200", "1a0", "0 ", " 0", "100 ", "1 0 0", "0\n", "0\x00", "+0", "-0",
-		"\xff", "1\xff0", "0\xff", "\uff10", "1\uff100", "\u0661\u0660\u0660",
-		chain(mostPairs + 1), comb(mostPairs + 1), // too long
-		chain(mostPairs) + "0", chain(mostPairs)[:2*mostPairs], // of MaxTree characters and less
-	}
-}
-
-func short(s string) string {
-	if len(s) > 40 {
-		return s[:40] + ".."
-	}
-	return s
-}
-
 func TestLimit(t *testing.T) {
-	if n := len(chain(mostPairs)); n > api.MaxTree || n+2 <= api.MaxTree {
+	if n := len(sample.Number(sample.MostPairs)); n > api.MaxTree || n+2 <= api.MaxTree {
 		t.Fatal("not the longest valid tree:", n)
 	}
 }
 
 func TestValidOfAllShortStrings(t *testing.T) {
 	want := map[string]bool{}
-	for _, s := range trees(7) {
+	for _, s := range sample.Trees(7) {
 		want[s] = true
 	}
 	words := []string{""}
@@ -91,29 +39,29 @@ func TestValidOfAllShortStrings(t *testing.T) {
 }
 
 func TestValidOfLongStrings(t *testing.T) {
-	for _, s := range []string{chain(mostPairs), comb(mostPairs), zigzag(mostPairs / 2), full(19)} {
+	for _, s := range []string{sample.Number(sample.MostPairs), sample.Comb(sample.MostPairs), zigzag(sample.MostPairs / 2), sample.Full(19)} {
 		if !tree.Valid(s) {
-			t.Errorf("not valid: %s", short(s))
+			t.Errorf("not valid: %s", sample.Short(s))
 		}
 	}
-	for _, s := range invalid() {
+	for _, s := range sample.NotTrees() {
 		if tree.Valid(s) {
-			t.Errorf("valid: %q", short(s))
+			t.Errorf("valid: %q", sample.Short(s))
 		}
 	}
 }
 
 // P1.2: no valid tree is the beginning of another one.
 func TestNoTreeBeginsAnother(t *testing.T) {
-	for _, s := range append(trees(7), chain(5000), comb(5000)) {
+	for _, s := range append(sample.Trees(7), sample.Number(5000), sample.Comb(5000)) {
 		for i := range len(s) {
 			if tree.Valid(s[:i]) {
-				t.Fatalf("%q is the beginning of %q", short(s[:i]), short(s))
+				t.Fatalf("%q is the beginning of %q", sample.Short(s[:i]), sample.Short(s))
 			}
 		}
 		for _, more := range []string{"0", "1", "100", "2"} {
 			if tree.Valid(s + more) {
-				t.Fatalf("valid: %q", short(s+more))
+				t.Fatalf("valid: %q", sample.Short(s+more))
 			}
 		}
 	}
@@ -121,28 +69,28 @@ func TestNoTreeBeginsAnother(t *testing.T) {
 
 // P1.2: the size is 1 more than twice the number of pairs.
 func TestPairs(t *testing.T) {
-	long := []string{chain(mostPairs), comb(mostPairs), zigzag(mostPairs / 2), full(19)}
-	for _, s := range append(trees(7), long...) {
+	long := []string{sample.Number(sample.MostPairs), sample.Comb(sample.MostPairs), zigzag(sample.MostPairs / 2), sample.Full(19)}
+	for _, s := range append(sample.Trees(7), long...) {
 		n, e := tree.Pairs(s)
 		if e != api.OK || n != strings.Count(s, "1") || len(s) != 2*n+1 {
-			t.Errorf("Pairs(%s) = %d, %d", short(s), n, e)
+			t.Errorf("Pairs(%s) = %d, %d", sample.Short(s), n, e)
 		}
 	}
-	for _, s := range invalid() {
+	for _, s := range sample.NotTrees() {
 		if n, e := tree.Pairs(s); e != api.ErrForm || n != 0 {
-			t.Errorf("Pairs(%q) = %d, %d", short(s), n, e)
+			t.Errorf("Pairs(%q) = %d, %d", sample.Short(s), n, e)
 		}
 	}
 }
 
 // P1.1: the head and the tail of a pair are its parts, and the pair is that of its parts.
 func TestConsHeadTail(t *testing.T) {
-	parts := append(trees(4), chain(1000), comb(1000), full(10))
+	parts := append(sample.Trees(4), sample.Number(1000), sample.Comb(1000), sample.Full(10))
 	for _, a := range parts {
 		for _, b := range parts {
 			s, e := tree.Cons(a, b)
 			if e != api.OK || s != "1"+a+b {
-				t.Fatalf("Cons(%s, %s) = %s, %d", short(a), short(b), short(s), e)
+				t.Fatalf("Cons(%s, %s) = %s, %d", sample.Short(a), sample.Short(b), sample.Short(s), e)
 			}
 			checkParts(t, s, a, b)
 		}
@@ -152,20 +100,20 @@ func TestConsHeadTail(t *testing.T) {
 func checkParts(t *testing.T, s, head, tail string) {
 	t.Helper()
 	if h, e := tree.Head(s); e != api.OK || h != head {
-		t.Errorf("Head(%s) = %s, %d", short(s), short(h), e)
+		t.Errorf("Head(%s) = %s, %d", sample.Short(s), sample.Short(h), e)
 	}
 	if r, e := tree.Tail(s); e != api.OK || r != tail {
-		t.Errorf("Tail(%s) = %s, %d", short(s), short(r), e)
+		t.Errorf("Tail(%s) = %s, %d", sample.Short(s), sample.Short(r), e)
 	}
 }
 
 func TestPairOfHeadAndTail(t *testing.T) {
-	for _, s := range append(trees(7)[1:], chain(mostPairs), comb(mostPairs), full(19)) {
+	for _, s := range append(sample.Trees(7)[1:], sample.Number(sample.MostPairs), sample.Comb(sample.MostPairs), sample.Full(19)) {
 		h, e1 := tree.Head(s)
 		r, e2 := tree.Tail(s)
 		c, e3 := tree.Cons(h, r)
 		if e1 != api.OK || e2 != api.OK || e3 != api.OK || c != s {
-			t.Errorf("%s: %d, %d, %d", short(s), e1, e2, e3)
+			t.Errorf("%s: %d, %d, %d", sample.Short(s), e1, e2, e3)
 		}
 	}
 }
@@ -175,55 +123,55 @@ func TestPartsOfNil(t *testing.T) {
 }
 
 func TestPartsOfLongTrees(t *testing.T) {
-	checkParts(t, chain(mostPairs), "0", chain(mostPairs-1))
-	checkParts(t, comb(mostPairs), comb(mostPairs-1), "0")
-	checkParts(t, full(19), full(18), full(18))
+	checkParts(t, sample.Number(sample.MostPairs), "0", sample.Number(sample.MostPairs-1))
+	checkParts(t, sample.Comb(sample.MostPairs), sample.Comb(sample.MostPairs-1), "0")
+	checkParts(t, sample.Full(19), sample.Full(18), sample.Full(18))
 }
 
 func TestPartsOfInvalid(t *testing.T) {
-	for _, s := range invalid() {
+	for _, s := range sample.NotTrees() {
 		if h, e := tree.Head(s); e != api.ErrForm || h != "" {
-			t.Errorf("Head(%q) = %q, %d", short(s), short(h), e)
+			t.Errorf("Head(%q) = %q, %d", sample.Short(s), sample.Short(h), e)
 		}
 		if r, e := tree.Tail(s); e != api.ErrForm || r != "" {
-			t.Errorf("Tail(%q) = %q, %d", short(s), short(r), e)
+			t.Errorf("Tail(%q) = %q, %d", sample.Short(s), sample.Short(r), e)
 		}
 	}
 }
 
 func TestConsOfInvalid(t *testing.T) {
-	for _, bad := range invalid() {
-		for _, good := range []string{"0", "100", chain(mostPairs)} {
+	for _, bad := range sample.NotTrees() {
+		for _, good := range []string{"0", "100", sample.Number(sample.MostPairs)} {
 			if s, e := tree.Cons(bad, good); e != api.ErrForm || s != "" {
-				t.Errorf("Cons(%q, %q) = %q, %d", short(bad), short(good), short(s), e)
+				t.Errorf("Cons(%q, %q) = %q, %d", sample.Short(bad), sample.Short(good), sample.Short(s), e)
 			}
 			if s, e := tree.Cons(good, bad); e != api.ErrForm || s != "" {
-				t.Errorf("Cons(%q, %q) = %q, %d", short(good), short(bad), short(s), e)
+				t.Errorf("Cons(%q, %q) = %q, %d", sample.Short(good), sample.Short(bad), sample.Short(s), e)
 			}
 		}
 		if s, e := tree.Cons(bad, bad); e != api.ErrForm || s != "" {
-			t.Errorf("Cons(%q, %q) = %q, %d", short(bad), short(bad), short(s), e)
+			t.Errorf("Cons(%q, %q) = %q, %d", sample.Short(bad), sample.Short(bad), sample.Short(s), e)
 		}
 	}
 }
 
 func TestConsAtTheLimit(t *testing.T) {
-	const half = (mostPairs - 1) / 2
+	const half = (sample.MostPairs - 1) / 2
 	for _, c := range []struct {
 		left, right int
 		want        api.Errno
 	}{
-		{mostPairs - 1, 0, api.OK}, {0, mostPairs - 1, api.OK}, {half, half, api.OK},
-		{mostPairs, 0, api.ErrSize}, {0, mostPairs, api.ErrSize}, {half, half + 1, api.ErrSize}, {half + 1, half, api.ErrSize},
-		{mostPairs, mostPairs, api.ErrSize},
+		{sample.MostPairs - 1, 0, api.OK}, {0, sample.MostPairs - 1, api.OK}, {half, half, api.OK},
+		{sample.MostPairs, 0, api.ErrSize}, {0, sample.MostPairs, api.ErrSize}, {half, half + 1, api.ErrSize}, {half + 1, half, api.ErrSize},
+		{sample.MostPairs, sample.MostPairs, api.ErrSize},
 	} {
-		a, b := comb(c.left), chain(c.right)
+		a, b := sample.Comb(c.left), sample.Number(c.right)
 		want := "1" + a + b
 		if c.want != api.OK {
 			want = ""
 		}
 		if s, e := tree.Cons(a, b); e != c.want || s != want {
-			t.Errorf("Cons of %d and %d pairs: %s, %d", c.left, c.right, short(s), e)
+			t.Errorf("Cons of %d and %d pairs: %s, %d", c.left, c.right, sample.Short(s), e)
 		}
 	}
 }
@@ -239,34 +187,34 @@ func depthOf(s string) (int, string) {
 }
 
 func TestDepth(t *testing.T) {
-	for _, s := range trees(8) {
+	for _, s := range sample.Trees(8) {
 		want, _ := depthOf(s)
 		if d, e := tree.Depth(s); e != api.OK || d != want {
 			t.Errorf("Depth(%s) = %d, %d", s, d, e)
 		}
 	}
 	for s, want := range map[string]int{
-		"0": 0, "100": 1, "1100100": 2, chain(mostPairs): mostPairs, comb(mostPairs): mostPairs,
-		zigzag(mostPairs / 2): mostPairs - 1, full(19): 19,
-		"1" + chain(7) + comb(9): 10, "1" + comb(9) + chain(7): 10,
+		"0": 0, "100": 1, "1100100": 2, sample.Number(sample.MostPairs): sample.MostPairs, sample.Comb(sample.MostPairs): sample.MostPairs,
+		zigzag(sample.MostPairs / 2): sample.MostPairs - 1, sample.Full(19): 19,
+		"1" + sample.Number(7) + sample.Comb(9): 10, "1" + sample.Comb(9) + sample.Number(7): 10,
 	} {
 		if d, e := tree.Depth(s); e != api.OK || d != want {
-			t.Errorf("Depth(%s) = %d, %d", short(s), d, e)
+			t.Errorf("Depth(%s) = %d, %d", sample.Short(s), d, e)
 		}
 	}
-	for _, s := range invalid() {
+	for _, s := range sample.NotTrees() {
 		if d, e := tree.Depth(s); e != api.ErrForm || d != 0 {
-			t.Errorf("Depth(%q) = %d, %d", short(s), d, e)
+			t.Errorf("Depth(%q) = %d, %d", sample.Short(s), d, e)
 		}
 	}
 }
 
 // P1.3: the value of a number is the number.
 func TestNumberValue(t *testing.T) {
-	for _, n := range []int{0, 1, 2, 3, 4, 5, 31, 100, 4000, mostPairs - 1, mostPairs} {
+	for _, n := range []int{0, 1, 2, 3, 4, 5, 31, 100, 4000, sample.MostPairs - 1, sample.MostPairs} {
 		s, e := tree.Number(n)
-		if e != api.OK || s != chain(n) {
-			t.Errorf("Number(%d) = %s, %d", n, short(s), e)
+		if e != api.OK || s != sample.Number(n) {
+			t.Errorf("Number(%d) = %s, %d", n, sample.Short(s), e)
 		}
 		if v, e := tree.Value(s); e != api.OK || v != n {
 			t.Errorf("Value of the number %d = %d, %d", n, v, e)
@@ -275,21 +223,20 @@ func TestNumberValue(t *testing.T) {
 }
 
 func TestNumberOutOfRange(t *testing.T) {
-	const greatest = int(^uint(0) >> 1)
 	for n, want := range map[int]api.Errno{
-		-1: api.ErrArg, -mostPairs: api.ErrArg, -greatest - 1: api.ErrArg,
-		mostPairs + 1: api.ErrSize, api.MaxTree: api.ErrSize, greatest/2 + 1: api.ErrSize, greatest: api.ErrSize,
+		-1: api.ErrArg, -sample.MostPairs: api.ErrArg, -sample.Greatest - 1: api.ErrArg,
+		sample.MostPairs + 1: api.ErrSize, api.MaxTree: api.ErrSize, sample.Greatest/2 + 1: api.ErrSize, sample.Greatest: api.ErrSize,
 	} {
 		if s, e := tree.Number(n); e != want || s != "" {
-			t.Errorf("Number(%d) = %s, %d", n, short(s), e)
+			t.Errorf("Number(%d) = %s, %d", n, sample.Short(s), e)
 		}
 	}
 }
 
 func TestValueOfAllSmallTrees(t *testing.T) {
-	for _, s := range trees(8) {
+	for _, s := range sample.Trees(8) {
 		want, n := api.ErrNone, 0
-		if k := len(s) / 2; s == chain(k) {
+		if k := len(s) / 2; s == sample.Number(k) {
 			want, n = api.OK, k
 		}
 		if v, e := tree.Value(s); e != want || v != n {
@@ -299,23 +246,23 @@ func TestValueOfAllSmallTrees(t *testing.T) {
 }
 
 func TestValueOfOthers(t *testing.T) {
-	last := strings.Repeat("10", mostPairs-2) + "11000" // its last pair but one has a head
-	for _, s := range []string{comb(2), comb(mostPairs), full(19), last, "1" + chain(1) + chain(5), "1" + chain(mostPairs-2) + "100"} {
+	last := strings.Repeat("10", sample.MostPairs-2) + "11000" // its last pair but one has a head
+	for _, s := range []string{sample.Comb(2), sample.Comb(sample.MostPairs), sample.Full(19), last, "1" + sample.Number(1) + sample.Number(5), "1" + sample.Number(sample.MostPairs-2) + "100"} {
 		if v, e := tree.Value(s); e != api.ErrNone || v != 0 {
-			t.Errorf("Value(%s) = %d, %d", short(s), v, e)
+			t.Errorf("Value(%s) = %d, %d", sample.Short(s), v, e)
 		}
 	}
-	for _, s := range invalid() {
+	for _, s := range sample.NotTrees() {
 		if v, e := tree.Value(s); e != api.ErrForm || v != 0 {
-			t.Errorf("Value(%q) = %d, %d", short(s), v, e)
+			t.Errorf("Value(%q) = %d, %d", sample.Short(s), v, e)
 		}
 	}
 }
 
 // P1.4: the items of a list are its elements.
 func TestItemsOfList(t *testing.T) {
-	small := trees(3)
-	lists := [][]string{nil, {}, small, {"0", "100"}, {comb(mostPairs - 1)}, {chain(1000), "0", comb(1000)}, {full(18), full(17), "0"}}
+	small := sample.Trees(3)
+	lists := [][]string{nil, {}, small, {"0", "100"}, {sample.Comb(sample.MostPairs - 1)}, {sample.Number(1000), "0", sample.Comb(1000)}, {sample.Full(18), sample.Full(17), "0"}}
 	for _, a := range small {
 		lists = append(lists, []string{a})
 		for _, b := range small {
@@ -332,30 +279,30 @@ func TestItemsOfList(t *testing.T) {
 		}
 		s, e := tree.List(l)
 		if e != api.OK || s != want {
-			t.Fatalf("List of %d elements: %s, %d", len(l), short(s), e)
+			t.Fatalf("List of %d elements: %s, %d", len(l), sample.Short(s), e)
 		}
 		if i, e := tree.Items(s); e != api.OK || !slices.Equal(i, l) {
-			t.Fatalf("Items(%s): %d elements, %d", short(s), len(i), e)
+			t.Fatalf("Items(%s): %d elements, %d", sample.Short(s), len(i), e)
 		}
 	}
 }
 
 // P1.4: every tree is a list.
 func TestListOfItems(t *testing.T) {
-	long := []string{chain(mostPairs), comb(mostPairs), zigzag(mostPairs / 2), full(19)}
-	for _, s := range append(trees(8), long...) {
+	long := []string{sample.Number(sample.MostPairs), sample.Comb(sample.MostPairs), zigzag(sample.MostPairs / 2), sample.Full(19)}
+	for _, s := range append(sample.Trees(8), long...) {
 		l, e := tree.Items(s)
 		if e != api.OK {
-			t.Errorf("Items(%s): %d", short(s), e)
+			t.Errorf("Items(%s): %d", sample.Short(s), e)
 		}
 		if r, e := tree.List(l); e != api.OK || r != s {
-			t.Errorf("List of Items(%s) = %s, %d", short(s), short(r), e)
+			t.Errorf("List of Items(%s) = %s, %d", sample.Short(s), sample.Short(r), e)
 		}
 	}
 }
 
 func TestItemsAreHeadsOfTails(t *testing.T) {
-	for _, s := range trees(6) {
+	for _, s := range sample.Trees(6) {
 		l, e := tree.Items(s)
 		if e != api.OK {
 			t.Errorf("Items(%s): %d", s, e)
@@ -375,16 +322,16 @@ func TestItemsAreHeadsOfTails(t *testing.T) {
 }
 
 func TestItemsOfLongLists(t *testing.T) {
-	l, e := tree.Items(chain(mostPairs))
-	if e != api.OK || len(l) != mostPairs || slices.ContainsFunc(l, func(s string) bool { return s != "0" }) {
+	l, e := tree.Items(sample.Number(sample.MostPairs))
+	if e != api.OK || len(l) != sample.MostPairs || slices.ContainsFunc(l, func(s string) bool { return s != "0" }) {
 		t.Errorf("%d elements, %d", len(l), e)
 	}
-	l, e = tree.Items(comb(mostPairs))
-	if e != api.OK || !slices.Equal(l, []string{comb(mostPairs - 1)}) {
+	l, e = tree.Items(sample.Comb(sample.MostPairs))
+	if e != api.OK || !slices.Equal(l, []string{sample.Comb(sample.MostPairs - 1)}) {
 		t.Errorf("%d elements, %d", len(l), e)
 	}
-	l, e = tree.Items("1" + full(18) + chain(1000))
-	if e != api.OK || !slices.Equal(l, append([]string{full(18)}, slices.Repeat([]string{"0"}, 1000)...)) {
+	l, e = tree.Items("1" + sample.Full(18) + sample.Number(1000))
+	if e != api.OK || !slices.Equal(l, append([]string{sample.Full(18)}, slices.Repeat([]string{"0"}, 1000)...)) {
 		t.Errorf("%d elements, %d", len(l), e)
 	}
 }
@@ -394,34 +341,34 @@ func TestListAtTheLimit(t *testing.T) {
 		l    []string
 		want api.Errno
 	}{
-		{slices.Repeat([]string{"0"}, mostPairs), api.OK},
-		{slices.Repeat([]string{"0"}, mostPairs+1), api.ErrSize},
-		{[]string{chain(mostPairs - 1)}, api.OK},
-		{[]string{chain(mostPairs)}, api.ErrSize},
-		{[]string{comb(mostPairs - 2), "0"}, api.OK},
-		{[]string{comb(mostPairs - 1), "0"}, api.ErrSize},
-		{[]string{"0", comb(mostPairs - 1)}, api.ErrSize},
-		{[]string{comb(mostPairs), comb(mostPairs), comb(mostPairs)}, api.ErrSize},
+		{slices.Repeat([]string{"0"}, sample.MostPairs), api.OK},
+		{slices.Repeat([]string{"0"}, sample.MostPairs+1), api.ErrSize},
+		{[]string{sample.Number(sample.MostPairs - 1)}, api.OK},
+		{[]string{sample.Number(sample.MostPairs)}, api.ErrSize},
+		{[]string{sample.Comb(sample.MostPairs - 2), "0"}, api.OK},
+		{[]string{sample.Comb(sample.MostPairs - 1), "0"}, api.ErrSize},
+		{[]string{"0", sample.Comb(sample.MostPairs - 1)}, api.ErrSize},
+		{[]string{sample.Comb(sample.MostPairs), sample.Comb(sample.MostPairs), sample.Comb(sample.MostPairs)}, api.ErrSize},
 	} {
 		s, e := tree.List(c.l)
 		if e != c.want {
 			t.Errorf("List of %d elements: %d", len(c.l), e)
 		}
-		if e == api.OK && (len(s) != 2*mostPairs+1 || !tree.Valid(s)) || e != api.OK && s != "" {
-			t.Errorf("List of %d elements: %s, %d", len(c.l), short(s), e)
+		if e == api.OK && (len(s) != 2*sample.MostPairs+1 || !tree.Valid(s)) || e != api.OK && s != "" {
+			t.Errorf("List of %d elements: %s, %d", len(c.l), sample.Short(s), e)
 		}
 	}
 }
 
 func TestListOfInvalid(t *testing.T) {
-	for _, bad := range invalid() {
-		for _, l := range [][]string{{bad}, {"0", bad}, {bad, "0"}, {"100", bad, "0"}, {comb(mostPairs), bad}, {bad, comb(mostPairs)}} {
+	for _, bad := range sample.NotTrees() {
+		for _, l := range [][]string{{bad}, {"0", bad}, {bad, "0"}, {"100", bad, "0"}, {sample.Comb(sample.MostPairs), bad}, {bad, sample.Comb(sample.MostPairs)}} {
 			if s, e := tree.List(l); e != api.ErrForm || s != "" {
-				t.Errorf("List with %q: %q, %d", short(bad), short(s), e)
+				t.Errorf("List with %q: %q, %d", sample.Short(bad), sample.Short(s), e)
 			}
 		}
 		if l, e := tree.Items(bad); e != api.ErrForm || len(l) != 0 {
-			t.Errorf("Items(%q): %d elements, %d", short(bad), len(l), e)
+			t.Errorf("Items(%q): %d elements, %d", sample.Short(bad), len(l), e)
 		}
 	}
 }
@@ -444,13 +391,13 @@ func TestNewMemory(t *testing.T) {
 }
 
 func TestPartsAreNewMemory(t *testing.T) {
-	s := "1" + full(5) + comb(40)
+	s := "1" + sample.Full(5) + sample.Comb(40)
 	h, _ := tree.Head(s)
 	r, _ := tree.Tail(s)
 	l, _ := tree.Items(s)
 	for _, part := range append(l, h, r) {
 		if within(part, s) {
-			t.Errorf("%s is a part of the memory of the argument", short(part))
+			t.Errorf("%s is a part of the memory of the argument", sample.Short(part))
 		}
 	}
 }
