@@ -1,4 +1,4 @@
-// Package write writes programs, one instruction after the other.
+// Package write writes programs, one instruction after the other, and joins their pieces.
 package write
 
 import (

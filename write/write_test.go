@@ -8,6 +8,7 @@ import (
 
 	"narcissus/api"
 	"narcissus/code"
+	"narcissus/sample"
 	"narcissus/write"
 )
 
@@ -46,5 +47,67 @@ func TestNewMemory(t *testing.T) {
 	clear(w.Program)
 	if !slices.Equal(l, kept) {
 		t.Error("the instructions that were given are changed")
+	}
+}
+
+func TestClear(t *testing.T) {
+	for _, c := range []struct {
+		first, last int
+		want        string
+	}{
+		{1, 3, "set 1 0; set 2 0; set 3 0"}, {30, 31, "set 30 0; set 31 0"}, {0, 0, "set 0 0"}, {1, 0, ""}, {3, 1, ""},
+	} {
+		if s, e := code.Text(write.Clear(c.first, c.last)); e != api.OK || s != c.want {
+			t.Errorf("from %d to %d: %s, %d", c.first, c.last, s, e)
+		}
+	}
+}
+
+func TestJoin(t *testing.T) {
+	jump, back := write.Jump(1, 3), write.Jump(2, -3) // valid only in the whole
+	for _, c := range []struct {
+		pieces []api.Program
+		want   string
+	}{
+		{nil, ""}, {[]api.Program{nil, {}, nil}, ""},
+		{[]api.Program{{write.Set(3, "100")}}, "set 3 100"},
+		{[]api.Program{{jump}, {write.Move(4, 5), write.Set(0, "11000")}, nil, {back}}, "jump 1 3; move 4 5; set 0 11000; jump 2 -3"},
+	} {
+		if p, e := write.Join(c.pieces...); e != api.OK || sample.Show(p) != "["+c.want+"]" {
+			t.Errorf("%s: %s, %d", c.want, sample.Show(p), e)
+		}
+	}
+}
+
+func TestJoinErrSize(t *testing.T) {
+	half := slices.Repeat(api.Program{write.Move(0, 0)}, api.MaxCode/2)
+	large := api.Program{write.Set(0, sample.Number(sample.MostPairs/2))}
+	for _, c := range []struct {
+		pieces []api.Program
+		want   api.Errno
+	}{
+		{[]api.Program{half, half}, api.OK}, {[]api.Program{half, half, half[:1]}, api.ErrSize}, {[]api.Program{half[:1], half, half}, api.ErrSize},
+		{[]api.Program{large, large}, api.OK}, {[]api.Program{large, large, large[:0]}, api.OK}, {[]api.Program{large, large, write.Clear(1, 3)}, api.ErrSize},
+	} {
+		if p, e := write.Join(c.pieces...); e != c.want || e != api.OK && len(p) != 0 {
+			t.Errorf("%d instructions, %d; not %d", len(p), e, c.want)
+		}
+	}
+}
+
+// What is joined shares no memory with the pieces, of which none is changed.
+func TestJoinNewMemory(t *testing.T) {
+	d := strings.Clone("1011000")
+	room := api.Program{write.Set(0, d), write.Move(1, 1), write.Move(2, 2)}
+	kept := slices.Clone(room)
+	for _, pieces := range [][]api.Program{{room}, {room[:1], {write.Head(0, 0)}}, {room[:1], room[:1]}} {
+		p, e := write.Join(pieces...)
+		if e != api.OK || unsafe.StringData(p[0].Tree) == unsafe.StringData(d) {
+			t.Error("a tree is not new", e)
+		}
+		clear(p)
+		if !slices.Equal(room, kept) {
+			t.Fatal("the pieces are changed")
+		}
 	}
 }
