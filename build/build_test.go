@@ -17,12 +17,6 @@ import (
 
 const mostRegs = 28 // registers of a program that is composed
 
-// regs is the number of registers of a valid program.
-func regs(p api.Program) int {
-	n, _ := code.Regs(p)
-	return n
-}
-
 // The chapter's programs, written down once more, with the names of places, to hold the package against them.
 
 type layout struct {
@@ -36,7 +30,7 @@ func newLayout() *layout { return &layout{places: map[string]int{}, jumps: map[i
 func (l *layout) add(p ...api.Instr) { l.p = append(l.p, p...) }
 
 func (l *layout) clean(p api.Program) {
-	for r := 1; r <= regs(p)-1; r++ {
+	for r := 1; r <= sample.Regs(p)-1; r++ {
 		l.add(write.Set(r, "0"))
 	}
 }
@@ -59,7 +53,7 @@ func (l *layout) done() api.Program {
 func most(l []api.Program) int {
 	n := 0
 	for _, p := range l {
-		n = max(n, regs(p))
+		n = max(n, sample.Regs(p))
 	}
 	return n
 }
@@ -157,7 +151,7 @@ func given(p api.Program) part {
 // cleaned is what a part does behind its cleaning and some more instructions.
 func (a part) cleaned(x string, more int) outcome {
 	o := a.does(x)
-	o.steps += more + regs(a.p) - 1
+	o.steps += more + sample.Regs(a.p) - 1
 	return o
 }
 

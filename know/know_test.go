@@ -32,19 +32,13 @@ func knowOf(q api.Program) api.Program {
 }
 
 func fixOf(t api.Program) api.Program {
-	w := regs(t)
+	w := sample.Regs(t)
 	q := append(sample.Program("tail "+strconv.Itoa(w)+" 0; head 0 0"), t...)
 	for i := 1; i < w; i++ {
 		q = append(q, write.Set(i, "0"))
 	}
 	q = append(q, write.Cons(0, 0, w), write.Set(w, "0"))
 	return knowOf(append(q, univ.Universal()...))
-}
-
-// regs is the number of registers of a valid program.
-func regs(p api.Program) int {
-	n, _ := code.Regs(p)
-	return n
 }
 
 // knows is Know of a program for which it returns one.
@@ -74,19 +68,6 @@ func some() []api.Program {
 		sample.Program("head 1 0; tail 0 0; jump 1 1; tail 1 1; cons 0 0 0; jump 1 -2"), sample.Program("head 0 0; tail 0 0; jump 0 -1; cons 0 31 0"),
 		slices.Repeat(api.Program{write.Move(31, 0)}, 1000),
 	})
-}
-
-// randomly returns a program at random.
-func randomly(r *rand.Rand) api.Program {
-	l := sample.Trees(5)
-	p := make(api.Program, r.Intn(12))
-	registers := []int{0, 0, 0, 1, 2, 3, 4, 5, 6, 7, r.Intn(api.MaxRegs)}
-	register := func() int { return registers[r.Intn(len(registers))] }
-	for i := range p {
-		a, b, c := register(), register(), register()
-		p[i] = []api.Instr{write.Set(a, l[r.Intn(len(l))]), write.Move(a, b), write.Cons(a, b, c), write.Head(a, b), write.Tail(a, b), write.Jump(a, r.Intn(len(p)+1)-i)}[r.Intn(api.Ops)]
-	}
-	return p
 }
 
 // same checks that Know(q) returns on x what q returns on the pair of the code of Know(q) and x, in as many steps as are promised.
@@ -122,7 +103,7 @@ func TestKnownAtRandom(t *testing.T) {
 	r := rand.New(rand.NewSource(1))
 	l := sample.Trees(4)
 	for range 1000 {
-		q := randomly(r)
+		q := sample.AtRandom(r.Intn)
 		for range 3 {
 			same(t, q, l[r.Intn(len(l))], 2000)
 		}
@@ -182,7 +163,7 @@ func TestDifferent(t *testing.T) {
 	l := some()
 	r := rand.New(rand.NewSource(2))
 	for range 1000 {
-		l = append(l, randomly(r))
+		l = append(l, sample.AtRandom(r.Intn))
 	}
 	for _, c := range sample.Trees(10) {
 		if p, e := code.Decode(c); e == api.OK {
@@ -219,7 +200,7 @@ func transforms(t *testing.T, q api.Program, x string, fuel int) (api.Program, b
 	if e != api.OK {
 		return nil, false
 	}
-	agrees(t, p, found, x, k+regs(q)+22, fuel)
+	agrees(t, p, found, x, k+sample.Regs(q)+22, fuel)
 	return found, true
 }
 
@@ -317,7 +298,7 @@ func TestFixOfIdentity(t *testing.T) {
 // P7.2: nothing where the transformation returns nothing, or comes to a step that is too large.
 func TestFixOfNothing(t *testing.T) {
 	for _, q := range slices.Concat(sample.Endless(), sample.Growing()) {
-		if regs(q) == api.MaxRegs {
+		if sample.Regs(q) == api.MaxRegs {
 			continue
 		}
 		for _, x := range []string{"0", "100", "11000"} {
@@ -334,11 +315,11 @@ func TestFixAtRandom(t *testing.T) {
 	l := sample.Trees(4)
 	codes := 0
 	for range 600 {
-		q := randomly(r)
+		q := sample.AtRandom(r.Intn)
 		if r.Intn(2) == 0 {
 			q = append(append(q, write.Set(1, "0")), returning()...)
 		}
-		if regs(q) == api.MaxRegs {
+		if sample.Regs(q) == api.MaxRegs {
 			continue
 		}
 		if _, ok := transforms(t, q, l[r.Intn(len(l))], 3000); ok {
@@ -435,26 +416,6 @@ func TestErrSizeOfInstructions(t *testing.T) {
 	}
 }
 
-// size is how many characters the code of a program has, which may be too many for a tree.
-func size(p api.Program) int {
-	number := func(n int) int { return 2*n + 1 }
-	n := 1
-	for _, in := range p {
-		n += 3 + number(in.Op) + number(in.A)
-		switch in.Op {
-		case api.OpSet:
-			n += len(in.Tree)
-		case api.OpMove, api.OpHead, api.OpTail:
-			n += number(in.B)
-		case api.OpCons:
-			n += 1 + number(in.B) + number(in.C)
-		case api.OpJump:
-			n += 1 + number(min(max(-in.B, 0), 1)) + number(max(in.B, -in.B))
-		}
-	}
-	return n
-}
-
 // Of all the trees and programs on the way, the code of what is returned is the largest.
 func TestErrSizeOfCode(t *testing.T) {
 	for _, c := range []struct {
@@ -462,8 +423,8 @@ func TestErrSizeOfCode(t *testing.T) {
 		f     func(api.Program) (api.Program, api.Errno)
 		empty int
 	}{
-		{"Know", know.Know, size(knowOf(sample.Program("set 0 0")))},
-		{"Fix", know.Fix, size(fixOf(sample.Program("set 0 0")))},
+		{"Know", know.Know, sample.Size(knowOf(sample.Program("set 0 0")))},
+		{"Fix", know.Fix, sample.Size(fixOf(sample.Program("set 0 0")))},
 	} {
 		// Each pair of a tree of the program is in the code of the result twice.
 		n := (api.MaxTree - c.empty) / 4
@@ -490,7 +451,7 @@ func TestErrSizeOfJumps(t *testing.T) {
 		return p
 	}
 	most := 0
-	for size(knowOf(far(most+1))) <= api.MaxTree {
+	for sample.Size(knowOf(far(most+1))) <= api.MaxTree {
 		most++
 	}
 	if most < 10 || most > 200 {

@@ -27,6 +27,35 @@ func Code(p api.Program) string {
 	return s
 }
 
+// Regs returns the number of registers of a program.
+func Regs(p api.Program) int {
+	n, e := code.Regs(p)
+	if e != api.OK {
+		panic("no registers: " + Show(p))
+	}
+	return n
+}
+
+// Size returns how many characters the code of a valid program has, which may be too many for a tree.
+func Size(p api.Program) int {
+	number := func(n int) int { return 2*n + 1 }
+	n := 1
+	for _, in := range p {
+		n += 3 + number(in.Op) + number(in.A)
+		switch in.Op {
+		case api.OpSet:
+			n += len(in.Tree)
+		case api.OpMove, api.OpHead, api.OpTail:
+			n += number(in.B)
+		case api.OpCons:
+			n += 1 + number(in.B) + number(in.C)
+		case api.OpJump:
+			n += 1 + number(min(max(-in.B, 0), 1)) + number(max(in.B, -in.B))
+		}
+	}
+	return n
+}
+
 // Show returns the strings of programs, or their beginnings if they are long.
 func Show(l ...api.Program) string {
 	var shown []string
@@ -67,6 +96,23 @@ func Endless() []api.Program {
 // Growing returns programs that come to a step that is too large on every tree.
 func Growing() []api.Program {
 	return programs("cons 0 0 0; jump 0 -1", "cons 1 0 1; cons 1 1 1; jump 1 -2")
+}
+
+// AtRandom returns a short program; pick returns a number less than its argument, at random.
+func AtRandom(pick func(int) int) api.Program {
+	l := Trees(5)
+	p := make(api.Program, pick(12))
+	registers := []int{0, 0, 0, 1, 2, 3, 4, 5, 6, 7, pick(api.MaxRegs)}
+	register := func() int { return registers[pick(len(registers))] }
+	for i := range p {
+		a, b, c := register(), register(), register()
+		choices := [api.Ops]api.Instr{
+			write.Set(a, l[pick(len(l))]), write.Move(a, b), write.Cons(a, b, c),
+			write.Head(a, b), write.Tail(a, b), write.Jump(a, pick(len(p)+1)-i),
+		}
+		p[i] = choices[pick(len(choices))]
+	}
+	return p
 }
 
 // Invalid returns programs that are not valid.

@@ -9,6 +9,7 @@ import (
 	"narcissus/api"
 	"narcissus/code"
 	"narcissus/sample"
+	"narcissus/spec"
 	"narcissus/write"
 )
 
@@ -108,6 +109,17 @@ func TestJoinNewMemory(t *testing.T) {
 		clear(p)
 		if !slices.Equal(room, kept) {
 			t.Fatal("the pieces are changed")
+		}
+	}
+}
+
+// The trees are those of the codes that Spec's programs have.
+func TestSupply(t *testing.T) {
+	for _, d := range sample.Trees(4) {
+		p, e := spec.Spec(nil, d)
+		first := sample.Pair("0", sample.Pair(write.SupplyRegister, d))
+		if c := "1" + first + "1" + write.SupplySecond + "1" + write.SupplyThird + "0"; e != api.OK || sample.Code(p) != c {
+			t.Errorf("%s: %s, %d; not %s", d, sample.Code(p), e, c)
 		}
 	}
 }
